@@ -805,7 +805,7 @@ func TestP11_3FailuresOfTheDisk(t *testing.T) {
 			h.Put(0, text(c))
 		}
 	}
-	for at := range 20 {
+	for at := range 36 { // the three transactions need 34 operations of the disk
 		for _, keep := range [][]bool{nil, {true}, {true, true}, {false, true, true}, {true, true, true, true}, slices.Repeat([]bool{true}, 30)} {
 			d, s := formatted(t, 8, 5)
 			d.Arm(at + 1)
